@@ -33,16 +33,22 @@ func formPatterns() []*regexp.Regexp {
 	return list
 }
 
-// checkParse compares ParseStmt of any text with the statement that the patterns tell.
-func checkParse(t *testing.T, patterns []*regexp.Regexp, text string) {
-	t.Helper()
-	var want []impl.Stmt
+// matchingStmts returns the statements that the patterns tell of any text.
+func matchingStmts(patterns []*regexp.Regexp, text string) []impl.Stmt {
+	var list []impl.Stmt
 	for i, pattern := range patterns {
 		if groups := pattern.FindStringSubmatch(text); groups != nil {
 			groups = append(groups, "", "")
-			want = append(want, impl.Stmt{Kind: i + 1, A: groups[1], B: groups[2]})
+			list = append(list, impl.Stmt{Kind: i + 1, A: groups[1], B: groups[2]})
 		}
 	}
+	return list
+}
+
+// checkParse compares ParseStmt of any text with the statement that the patterns tell.
+func checkParse(t *testing.T, patterns []*regexp.Regexp, text string) {
+	t.Helper()
+	want := matchingStmts(patterns, text)
 	if len(want) > 1 {
 		t.Fatalf("%q is the text of %#v", text, want)
 	}
