@@ -558,26 +558,28 @@ func TestKindsThatAreNone(t *testing.T) {
 	}
 }
 
+// wrongParts lists changes that make a node of a formula over three program variables none.
+var wrongParts = []func(part *impl.Formula){
+	func(part *impl.Formula) { part.Kind = 0 },
+	func(part *impl.Formula) { part.Kind = 13 },
+	func(part *impl.Formula) { part.Kind = -part.Kind },
+	func(part *impl.Formula) { part.K = 3 },
+	func(part *impl.Formula) { part.K = -1 },
+	func(part *impl.Formula) { part.U = 4 },
+	func(part *impl.Formula) { part.U = -1 },
+	func(part *impl.Formula) { part.V = 4 },
+	func(part *impl.Formula) { part.V = -1 },
+	func(part *impl.Formula) { part.Args = append(part.Args, sharedAt(1)) },
+	func(part *impl.Formula) { part.Args = append(part.Args, sharedAt(1), always(), always()) },
+}
+
 // One part that is no formula is enough, wherever it stands.
 func TestOneWrongPart(t *testing.T) {
-	changes := []func(part *impl.Formula){
-		func(part *impl.Formula) { part.Kind = 0 },
-		func(part *impl.Formula) { part.Kind = 13 },
-		func(part *impl.Formula) { part.Kind = -part.Kind },
-		func(part *impl.Formula) { part.K = 3 },
-		func(part *impl.Formula) { part.K = -1 },
-		func(part *impl.Formula) { part.U = 4 },
-		func(part *impl.Formula) { part.U = -1 },
-		func(part *impl.Formula) { part.V = 4 },
-		func(part *impl.Formula) { part.V = -1 },
-		func(part *impl.Formula) { part.Args = append(part.Args, sharedAt(1)) },
-		func(part *impl.Formula) { part.Args = append(part.Args, sharedAt(1), always(), always()) },
-	}
 	for i, f := range validFormulas() {
 		if i%3 != 0 {
 			continue
 		}
-		for _, change := range changes {
+		for _, change := range wrongParts {
 			for _, whole := range changedParts(f, change) {
 				checkIsFormula(t, 3, whole, false)
 			}
