@@ -118,11 +118,12 @@ func withoutSteps(s impl.Structure, i int) int {
 }
 
 // wantPaths takes the greatest of the paths of exactly one step, of two, and so on up to the number of nodes, for each pair.
+// It begins below all numbers: the greatest path may lie below False.
 func wantPaths(s impl.Structure) [][]int {
 	count := len(s.Nodes)
 	best, exact := make([][]int, count), make([][]int, count)
 	for i := range count {
-		best[i], exact[i] = make([]int, count), make([]int, count)
+		best[i], exact[i] = slices.Repeat([]int{math.MinInt}, count), make([]int, count)
 		for j := range count {
 			exact[i][j] = stepOf(s, i, j)
 		}
@@ -146,7 +147,7 @@ func wantPaths(s impl.Structure) [][]int {
 
 // greatestPath follows every path on which no node is met twice, but for the last one.
 func greatestPath(s impl.Structure, at int, to int, least int, met map[int]bool) int {
-	greatest := 0
+	greatest := math.MinInt
 	for next := range s.Nodes {
 		value := min(least, stepOf(s, at, next))
 		if next == to {
@@ -160,14 +161,16 @@ func greatestPath(s impl.Structure, at int, to int, least int, met map[int]bool)
 	return greatest
 }
 
+// valueIn returns Half where a list has no truth value.
+func valueIn(list []int, k int) int {
+	if k < 0 || k >= len(list) || list[k] < 0 || list[k] > 2 {
+		return 1
+	}
+	return list[k]
+}
+
 // wantLeafValue tells the value of a formula without Args, where -1 stands for no node.
 func (r reference) wantLeafValue(f impl.Formula, u int, v int) int {
-	pick := func(list []int, k int) int {
-		if k < 0 || k >= len(list) || list[k] < 0 || list[k] > 2 {
-			return 1
-		}
-		return list[k]
-	}
 	if f.Kind == 1 {
 		return 2
 	}
@@ -177,20 +180,20 @@ func (r reference) wantLeafValue(f impl.Formula, u int, v int) int {
 	n := r.s.Nodes[u]
 	switch f.Kind {
 	case 2:
-		return pick(n.Vars, f.K)
+		return valueIn(n.Vars, f.K)
 	case 3:
-		return pick(n.Reach, f.K)
+		return valueIn(n.Reach, f.K)
 	case 4:
-		return pick([]int{n.Shared}, 0)
+		return valueIn([]int{n.Shared}, 0)
 	case 5:
-		return pick([]int{stepOf(r.s, u, v)}, 0)
+		return valueIn([]int{stepOf(r.s, u, v)}, 0)
 	case 6:
 		if u != v {
 			return 0
 		}
 		return withoutSteps(r.s, u)
 	}
-	return r.paths[u][v]
+	return valueIn(r.paths[u], v)
 }
 
 // table returns the values of a formula for all nodes in the places of all logic variables at once, also for no node, in the order of placeIn.
@@ -281,8 +284,9 @@ func checkPath(t *testing.T, s impl.Structure, i int, j int, want int) {
 	if got := impl.PathOf(s, i, j); got != want {
 		t.Errorf("PathOf(%.300s, %d, %d) = %d, want %d", rawStructure(s), i, j, got, want)
 	}
-	checkEval(t, s, pathTo(0, 1), []int{i, j}, want)
-	checkEval(t, s, pathTo(3, 2), []int{-1, -1, j, i}, want)
+	value := valueIn([]int{want}, 0)
+	checkEval(t, s, pathTo(0, 1), []int{i, j}, value)
+	checkEval(t, s, pathTo(3, 2), []int{-1, -1, j, i}, value)
 }
 
 // checkTable compares a formula with its table, with nodes for all logic variables, for some and for none.
@@ -481,9 +485,9 @@ func TestLessKnownStructures(t *testing.T) {
 func TestPathsOneByOne(t *testing.T) {
 	random := rand.New(rand.NewSource(16))
 	seen := map[string]int{}
-	for i := range 400 {
+	for i := range 700 {
 		count := 1 + i%5
-		values := [][]int{{0, 1, 2}, {0, 0, 0, 1, 2}, {0, 0, 0, 2}, {0, 0, 0, 0, 0, 1, 1, 2}, {-1, 0, 0, 0, 1, 2, 3}}[i/5%5]
+		values := [][]int{{0, 1, 2}, {0, 0, 0, 1, 2}, {0, 0, 0, 2}, {0, 0, 0, 0, 0, 1, 1, 2}, {-1, 0, 0, 0, 1, 2, 3}, {-1, -2, -2, -3, -3, -3, 0, 3}, {-1, -2, -3, -4, -5}}[i/5%7]
 		s := randomStructure(random, 1, count, values)
 		for j := range s.Nodes {
 			s.Nodes[j].Many = random.Intn(2)
@@ -499,7 +503,7 @@ func TestPathsOneByOne(t *testing.T) {
 			}
 		}
 	}
-	if len(seen) != 5 || seen["true 0"] > 0 {
+	if len(seen) != 10 || seen["true 0"] > 0 || seen["false -1"] == 0 || seen["false -5"] == 0 {
 		t.Errorf("the values of paths are %v", seen)
 	}
 }
@@ -1088,25 +1092,27 @@ func checkAllLeaves(t *testing.T, s impl.Structure) {
 	}
 }
 
-// In paths numbers above True count as True, and numbers below False lead nowhere.
+// In paths numbers above True count as True, and numbers below False stay what they are.
 func TestPathsOfOtherNumbers(t *testing.T) {
 	for _, none := range nonTruths {
-		value := 0
-		if none > 0 {
-			value = 2
-		}
+		value := min(none, 2)
 		for count := 2; count <= 10; count++ {
 			s := listStructure(count)
 			for step := range count - 1 {
 				other := cloneStructure(s)
 				other.Next[step*count+step+1] = none
-				checkPath(t, other, 0, count-1, value)
-				checkPath(t, other, step, step+1, value)
+				// A detour by a third node, or the step from the first one to the last one, is False.
+				want := value
+				if count > 2 {
+					want = max(0, value)
+				}
+				checkPath(t, other, 0, count-1, want)
+				checkPath(t, other, step, step+1, want)
 				checkEval(t, other, nextTo(0, 1), []int{step, step + 1}, 1)
 				// A step of Half on the same path.
 				other.Next[(count-2)*count+count-1] = 1
 				if step < count-2 {
-					checkPath(t, other, 0, count-1, min(value, 1))
+					checkPath(t, other, 0, count-1, min(want, 1))
 				}
 			}
 			every := impl.Structure{Nodes: s.Nodes, Next: slices.Repeat([]int{none}, count*count)}
@@ -1125,6 +1131,79 @@ func TestPathsOfOtherNumbers(t *testing.T) {
 			one = structureOf(nodes(node("1", "1", 0, many)), 2)
 			checkPath(t, one, 0, 0, 2)
 		}
+	}
+}
+
+// Where every path has a step below False, the greatest path has no truth value, and the formula is Half.
+func TestPathsBelowFalse(t *testing.T) {
+	cases := []struct {
+		next []int
+		// The values from each node to each one, row by row, if every node stands for one cell.
+		want    []int
+		comment string
+	}{
+		{[]int{0, 0, -2, 0}, []int{2, 0, -2, 2}, "the step -2 is on all paths from 1 to 0"},
+		{[]int{9, 0, -2, 9}, []int{2, 0, -2, 2}, "other steps are greater"},
+		{[]int{-5, 1, -2, -7}, []int{2, 1, -2, 2}, "other steps are less"},
+		{[]int{0, -1, math.MinInt, 0}, []int{2, -1, math.MinInt, 2}, "the least number"},
+		{[]int{0, -3, 2, 0, 0, 0, 0, -1, 0}, []int{2, -1, 2, 0, 2, 0, 0, -1, 2}, "a path of two steps is greater than the direct one"},
+		{[]int{0, -1, 2, 0, 0, 0, 0, -3, 0}, []int{2, -1, 2, 0, 2, 0, 0, -1, 2}, "the direct step is greater"},
+		{[]int{0, -3, -1, 0, 0, 0, 0, -2, 0}, []int{2, -2, -1, 0, 2, 0, 0, -2, 2}, "both steps of the greater path lie below False"},
+		{[]int{0, -3, -2, 0, 0, 0, 0, -1, 0}, []int{2, -2, -2, 0, 2, 0, 0, -1, 2}, "the first one is less than the second one"},
+		{[]int{-9, -4, -9, -9, -9, -4, -4, -9, -9}, []int{2, -4, -4, -4, 2, -4, -4, -4, 2}, "a cycle of steps below False"},
+	}
+	for _, c := range cases {
+		count := 2
+		if len(c.next) == 9 {
+			count = 3
+		}
+		s := impl.Structure{Nodes: slices.Repeat(nodes(node("0", "0", 0, 0)), count), Next: c.next}
+		for at, want := range c.want {
+			i, j := at/count, at%count
+			checkPath(t, s, i, j, want)
+			if want < 0 {
+				checkUnknown(t, s, pathTo(0, 1), []int{i, j})
+			}
+		}
+		every := 1
+		if slices.Contains(c.want, 0) {
+			every = 0
+		}
+		checkHolds(t, s, all(0, all(1, pathTo(0, 1))), every)
+		checkHolds(t, s, some(0, some(1, not(pathTo(0, 1)))), 2-every)
+		if t.Failed() {
+			t.Fatal(c.comment)
+		}
+	}
+}
+
+// Numbers below False decide in structures of every size, wherever they stand.
+func TestPathsBelowFalseInStructuresOfEverySize(t *testing.T) {
+	random := rand.New(rand.NewSource(29))
+	below := 0
+	for _, values := range [][]int{{-1}, {-1, -2}, {-9, -8, -7, -6, -5, -4, -3, -2, -1}, {math.MinInt, math.MinInt + 1, -1 << 32}, {-5, -4, -3, -3, -4, -5, -4, -5, 0}, {-1, 3, -1, -1, -1}, {math.MinInt, math.MaxInt, -1}} {
+		for count := 1; count <= 10; count++ {
+			for range 4 {
+				s := randomStructure(random, 1, count, values)
+				for i := range count {
+					s.Nodes[i].Many = random.Intn(2)
+				}
+				r := referenceOf(s)
+				for i := range count {
+					for j := range count {
+						checkPath(t, s, i, j, r.paths[i][j])
+						if r.paths[i][j] < 0 {
+							below++
+						}
+					}
+				}
+				checkTable(t, random, r, some(0, not(pathTo(0, 1))))
+				checkTable(t, random, r, all(1, either(pathTo(0, 1), pathTo(1, 0))))
+			}
+		}
+	}
+	if below < 1000 {
+		t.Errorf("only %d values lie below False", below)
 	}
 }
 
